@@ -150,6 +150,15 @@ func TestNumbersOfTheChapter(t *testing.T) {
 	}
 }
 
+func TestTakes(t *testing.T) {
+	want := map[int]int{and: 2, or: 2, no: 1, then: 2}
+	for _, sign := range []int{math.MinInt, -10, -1, 0, 1, 5, 6, 9, 10, 11, 12, 13, 14, 1<<32 + 10, math.MaxInt} {
+		if got := Takes(sign); got != want[sign] {
+			t.Errorf("Takes(%d): got %d, want %d", sign, got, want[sign])
+		}
+	}
+}
+
 // TestErrorIsNil: where nothing is wrong the error is nil, not an OK in an error.
 func TestErrorIsNil(t *testing.T) {
 	f := of(2, 0, 1, and)

@@ -375,6 +375,27 @@ func TestWrongWorld(t *testing.T) {
 	}
 }
 
+// TestCheckWorld: of every world of up to two things, and of those beside them.
+func TestCheckWorld(t *testing.T) {
+	for u := -2; u <= maxThings+2; u++ {
+		for k := range 7 * 7 * 7 {
+			w := api.World{Things: u, Has: [3]int{k%7 - 1, k/7%7 - 1, k/49 - 1}}
+			want := api.OK
+			for _, s := range w.Has {
+				if u < 0 || u > maxThings || s < 0 || s >= 1<<u {
+					want = api.ErrRange
+				}
+			}
+			if got := plain.Told(CheckWorld(w)); got != want {
+				t.Errorf("CheckWorld(%v): got %v, want %v", w, got, want)
+			}
+		}
+	}
+	if err := CheckWorld(api.World{}); err != nil {
+		t.Errorf("CheckWorld: got %v", err)
+	}
+}
+
 // TestParseEveryByte: nine bytes are signs and all others are none, wherever they stand.
 func TestParseEveryByte(t *testing.T) {
 	known := "ABC01+*-~"

@@ -257,6 +257,42 @@ func TestNextWrong(t *testing.T) {
 	}
 }
 
+// TestAll: all counts in order, the same ones again, and none of wrong things.
+func TestAll(t *testing.T) {
+	for u := range maxThings + 1 {
+		counted := All(u)
+		for range 2 {
+			if got := slices.Collect(counted); !slices.Equal(got, inOrder(t, u)) {
+				t.Errorf("All(%d): got %v", u, got)
+			}
+		}
+	}
+	for _, u := range wrongThings {
+		for n := range All(u) {
+			t.Fatalf("All(%d): got %v, want none", u, n)
+		}
+	}
+}
+
+// TestAllLeft: who goes over them may leave at any of them.
+func TestAllLeft(t *testing.T) {
+	for u := range maxThings + 1 {
+		list := inOrder(t, u)
+		for last := range list {
+			var got []counts
+			for n := range All(u) {
+				got = append(got, n)
+				if len(got) == last+1 {
+					break
+				}
+			}
+			if !slices.Equal(got, list[:last+1]) {
+				t.Fatalf("All(%d), left at %d: got %v", u, last, got)
+			}
+		}
+	}
+}
+
 func TestLeastAndManyByHand(t *testing.T) {
 	for _, c := range []struct {
 		u    int

@@ -370,6 +370,35 @@ func TestJustAlike(t *testing.T) {
 	}
 }
 
+// TestHolds: where so many things lie in each field, just as in each world in which they do; of wrong counts chapter 6's errors.
+func TestHolds(t *testing.T) {
+	f := of(t, []string{"sub A B", "nomore C A -1", "least AB+ 2"}, 0, 1, and, 2, no, or)
+	for _, w := range every(3) {
+		want, err := form.Holds(f, w)
+		if err != nil {
+			t.Fatalf("form.Holds(%v): got %v", w, err)
+		}
+		if got, err := Holds(f, crossed(w)); got != want || err != nil {
+			t.Errorf("Holds(%v): got %t %v, want %t", crossed(w), got, err, want)
+		}
+	}
+	for _, c := range []struct {
+		f     api.Form
+		n     [cells]int
+		wrong api.Errno
+	}{
+		{f, [cells]int{-1}, api.ErrRange},
+		{f, [cells]int{7}, api.ErrRange},
+		{f, [cells]int{math.MaxInt, math.MaxInt}, api.ErrRange},
+		{f, [cells]int{4, 3}, api.ErrFull},
+		{api.Form{}, [cells]int{1}, api.ErrNone},
+	} {
+		if got, err := Holds(c.f, c.n); got || plain.Told(err) != c.wrong {
+			t.Errorf("Holds(%v, %v): got %t %v, want %v", c.f, c.n, got, err, c.wrong)
+		}
+	}
+}
+
 // TestManyCubes: neither too many cubes nor a negation too long is an error here.
 func TestManyCubes(t *testing.T) {
 	six := []string{"least A 0", "least B 0", "least C 0", "sub 0 A", "sub 0 B", "sub 0 C"}
